@@ -1,0 +1,78 @@
+package tests
+
+import (
+	"reflect"
+	"testing"
+)
+
+// results turns the results of a call into a list, so that calls of all kinds can be compared.
+func results(values ...any) []any {
+	return values
+}
+
+// same compares results, with nil slices and empty ones being the same value.
+func same(a []any, b []any) bool {
+	if len(a) != len(b) {
+		return false
+	}
+	for i := range a {
+		x, y := reflect.ValueOf(a[i]), reflect.ValueOf(b[i])
+		if x.Kind() == reflect.Slice && x.Type() == y.Type() && x.Len() == 0 && y.Len() == 0 {
+			continue
+		}
+		if !reflect.DeepEqual(a[i], b[i]) {
+			return false
+		}
+	}
+	return true
+}
+
+// expect tells where the results of a call are not the ones wanted.
+func expect(t *testing.T, name string, got []any, want ...any) {
+	t.Helper()
+	if !same(got, want) {
+		t.Errorf("%s: got %#v, want %#v", name, got, want)
+	}
+}
+
+// expectZero tells where a call that fails has other results than zero values.
+func expectZero(t *testing.T, name string, got []any) {
+	t.Helper()
+	for _, value := range got {
+		v := reflect.ValueOf(value)
+		if v.Kind() == reflect.Slice && v.Len() == 0 {
+			continue
+		}
+		if !v.IsZero() {
+			t.Errorf("%s: got %#v, want zero values", name, got)
+			return
+		}
+	}
+}
+
+// spoil changes each element of each slice among results.
+func spoil(values []any) {
+	for _, value := range values {
+		v := reflect.ValueOf(value)
+		if v.Kind() != reflect.Slice {
+			continue
+		}
+		v = v.Slice3(0, v.Cap(), v.Cap())
+		for i := range v.Len() {
+			spoilElement(v.Index(i))
+		}
+	}
+}
+
+func spoilElement(v reflect.Value) {
+	switch v.Kind() {
+	case reflect.Int:
+		v.SetInt(-77)
+	case reflect.String:
+		v.SetString("spoilt")
+	case reflect.Struct:
+		for i := range v.NumField() {
+			spoilElement(v.Field(i))
+		}
+	}
+}
