@@ -1,7 +1,9 @@
 package tests
 
 import (
+	"math/rand"
 	"reflect"
+	"slices"
 	"testing"
 )
 
@@ -50,6 +52,48 @@ func expectZero(t *testing.T, name string, got []any) {
 	}
 }
 
+// expectNew spoils the results of calls: neither the lists that are their arguments nor the next calls' results may show it.
+func expectNew(t *testing.T, lists [][]int, again func() []map[string][]any) {
+	t.Helper()
+	before := slices.Concat(lists...)
+	want := again()
+	for _, calls := range again() {
+		for _, got := range calls {
+			spoil(got)
+		}
+	}
+	if !slices.Equal(slices.Concat(lists...), before) {
+		t.Error("an argument shares memory with a result")
+	}
+	if got := again(); !reflect.DeepEqual(got, want) {
+		t.Errorf("got %v, want %v", got, want)
+	}
+}
+
+// expectZeroIfFailed looks at those calls alone whose last result is false.
+func expectZeroIfFailed(t *testing.T, calls []map[string][]any) {
+	t.Helper()
+	for _, kind := range calls {
+		for name, got := range kind {
+			if got[len(got)-1] == false {
+				expectZero(t, name, got)
+			}
+		}
+	}
+}
+
+// anyList returns 1..long numbers in 1..most, or as well perhaps one more, or none, of whatever numbers are told.
+func anyList(r *rand.Rand, long int, most int, numbers []int) []int {
+	if r.Intn(2) == 0 {
+		return randomNumbers(r, long, most)
+	}
+	var drawn []int
+	for range r.Intn(long + 2) {
+		drawn = append(drawn, numbers[r.Intn(len(numbers))])
+	}
+	return drawn
+}
+
 // spoil changes each element of each slice among results.
 func spoil(values []any) {
 	for _, value := range values {
@@ -70,6 +114,10 @@ func spoilElement(v reflect.Value) {
 		v.SetInt(-77)
 	case reflect.String:
 		v.SetString("spoilt")
+	case reflect.Slice:
+		for i := range v.Len() {
+			spoilElement(v.Index(i))
+		}
 	case reflect.Struct:
 		for i := range v.NumField() {
 			spoilElement(v.Field(i))

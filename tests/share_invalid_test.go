@@ -4,8 +4,8 @@ import (
 	"fmt"
 	"math"
 	"math/rand"
-	"reflect"
 	"slices"
+	"strconv"
 	"strings"
 	"testing"
 
@@ -57,15 +57,20 @@ func noShares() []paintersShare {
 	return shares
 }
 
-func noWidthsTexts() []string {
+// noNumbersTexts are no texts of 1..long numbers in 1..most with - between them.
+func noNumbersTexts(long int, most int) []string {
+	over, ones := strconv.Itoa(most+1), strings.Repeat("1-", long-1)
 	return []string{
-		"", "-", "--", " ", "0", "101", "1000", "00", "01", "001", "+1", "-1", "1-", "-1-2", "1--2", "1-2-", "1---2", "1-0", "0-1", "1-101", "101-1", "1-01",
+		"", "-", "--", " ", "0", over, "1000", "00", "01", "001", "+1", "-1", "1-", "-1-2", "1--2", "1-2-", "1---2", "1-0", "0-1", "1-" + over, over + "-1", "1-01",
 		"1-+2", "1 - 2", "1- 2", "1 -2", "1,2", "1;2", "1.2", "1/2", "1 2", " 1", "1 ", "1\n", "\n1", "1\t", "1\x00", "\x00", "a", "1a", "a-1", "1-a", "0x1",
 		"1_0", "1e1", "1.0", "٣", "１", "1–2", "\xff", "1-\xff", "99999999999999999999", "18446744073709551617", "4294967297", "1-18446744073709551617",
-		"-9223372036854775808", "9223372036854775807", strings.Repeat("1-", 12) + "1", strings.Repeat("1-", 12), strings.Repeat("1-", 12) + "-1",
-		strings.Repeat("1-", 11), strings.Repeat("1-", 11) + "0", strings.Repeat("1-", 11) + "101", strings.Repeat("1-", 10000) + "1",
+		"-9223372036854775808", "9223372036854775807", ones + "1-1", ones + "1-", ones + "1--1", ones, ones + "0", ones + over, strings.Repeat("1-", 10000) + "1",
 		strings.Repeat("1", 10000), strings.Repeat("0", 10000) + "1", strings.Repeat("-", 10000), "3-5-2-4 ", "3-5-2-4-", "-3-5-2-4",
 	}
+}
+
+func noWidthsTexts() []string {
+	return noNumbersTexts(impl.MaxShared, impl.MaxWidth)
 }
 
 // widthCalls are all functions of widths alone.
@@ -239,22 +244,10 @@ func TestShareArgumentsStay(t *testing.T) {
 // TestShareResultsAreNew spoils the results of a call: neither its arguments nor the next call's results may show it.
 func TestShareResultsAreNew(t *testing.T) {
 	widths, rates, share := []int{3, 5, 2, 4}, []int{2, 1, 2}, []int{1, 0, 3}
-	before := slices.Concat(widths, rates, share)
 	again := func() []map[string][]any {
 		return append(allShareCalls(widths, rates, share), map[string][]any{"ParseWidths": results(impl.ParseWidths("3-5-2-4"))})
 	}
-	want := again()
-	for _, calls := range again() {
-		for _, got := range calls {
-			spoil(got)
-		}
-	}
-	if !slices.Equal(slices.Concat(widths, rates, share), before) {
-		t.Error("an argument shares memory with a result")
-	}
-	if got := again(); !reflect.DeepEqual(got, want) {
-		t.Errorf("got %v, want %v", got, want)
-	}
+	expectNew(t, [][]int{widths, rates, share}, again)
 }
 
 // TestAnyShareArguments calls all functions with whatever comes: they return, with zero values where they fail.
@@ -263,16 +256,7 @@ func TestAnyShareArguments(t *testing.T) {
 	numbers := append(farNumbers(), 0, 1, 2, 3, 4, 5, 6, 12, 13, 20, 21, 100, 101, impl.MaxTime, impl.MaxTime+1)
 	texts := append(noWidthsTexts(), "1", "100", "3-5-2-4")
 	number := func() int { return numbers[r.Intn(len(numbers))] }
-	list := func(long int, most int) []int {
-		if r.Intn(2) == 0 {
-			return randomNumbers(r, long, most)
-		}
-		var drawn []int
-		for range r.Intn(long + 2) {
-			drawn = append(drawn, number())
-		}
-		return drawn
-	}
+	list := func(long int, most int) []int { return anyList(r, long, most, numbers) }
 	for range 3000 {
 		widths, rates, share := list(12, 100), list(5, 20), list(5, 3)
 		calls := append(allShareCalls(widths, rates, share), painterCalls(widths, number()), mostCalls(widths, number()), meetCalls(widths, number(), number()),
@@ -282,12 +266,6 @@ func TestAnyShareArguments(t *testing.T) {
 				"PartOfPainter": results(impl.PartOfPainter(widths, rates, number())),
 				"ParseWidths":   results(impl.ParseWidths(texts[r.Intn(len(texts))])),
 			})
-		for _, kind := range calls {
-			for name, got := range kind {
-				if got[len(got)-1] == false {
-					expectZero(t, name, got)
-				}
-			}
-		}
+		expectZeroIfFailed(t, calls)
 	}
 }
