@@ -362,11 +362,15 @@ func MirrorFence(fence string) (string, bool) {
 	if !IsFence(fence) {
 		return "", false
 	}
+	return toldFromRight(fence), true
+}
+
+func toldFromRight(boards string) string {
 	mirrored := ""
-	for _, board := range fence {
+	for _, board := range boards {
 		mirrored = string(board) + mirrored
 	}
-	return mirrored, true
+	return mirrored
 }
 
 // JoinFences returns the fence with the boards of a, and behind them those of b. It fails if they are too many.
