@@ -195,6 +195,21 @@ func TestCatsLeaveNobodyWaiting(t *testing.T) {
 	})
 }
 
+// TestHeightsAreFree writes heights as soon as a call has returned: by go test -race it fails if somebody still reads them.
+func TestHeightsAreFree(t *testing.T) {
+	heights := make([]int, impl.MaxBoards)
+	for height := range impl.MaxTall {
+		for board := range heights {
+			heights[board] = height
+		}
+		expect(t, "IsCatWay", results(impl.IsCatWay(heights, impl.MaxReach, 0, allTold)), true, true)
+		for board := range heights {
+			heights[board] = impl.MaxTall - height
+		}
+		expect(t, "FirstLeastClimb", results(impl.FirstLeastClimb(heights, impl.MaxReach)), allTold, true)
+	}
+}
+
 // TestAnyCatArguments calls all functions with whatever comes: they return, with zero values where they fail.
 func TestAnyCatArguments(t *testing.T) {
 	r := rand.New(rand.NewSource(67))
