@@ -70,6 +70,22 @@ func expectNew(t *testing.T, lists [][]int, again func() []map[string][]any) {
 	}
 }
 
+// expectApart spoils each list of a result: no other one may show it.
+func expectApart(t *testing.T, calls map[string]func() ([][]int, bool)) {
+	t.Helper()
+	for name, again := range calls {
+		want, _ := again()
+		for k := range want {
+			got, _ := again()
+			spoil(results(got[k]))
+			got[k] = want[k]
+			if !reflect.DeepEqual(got, want) {
+				t.Error("the lists share memory:", name, k, got)
+			}
+		}
+	}
+}
+
 // expectZeroIfFailed looks at those calls alone whose last result is false.
 func expectZeroIfFailed(t *testing.T, calls []map[string][]any) {
 	t.Helper()

@@ -4,7 +4,6 @@ import (
 	"fmt"
 	"math"
 	"math/rand"
-	"reflect"
 	"slices"
 	"testing"
 
@@ -220,17 +219,10 @@ func TestPostResultsAreNew(t *testing.T) {
 	expectNew(t, [][]int{rails, cut, ground}, again)
 }
 
-// TestFirstRailsApart spoils each list of a result: no other one may show it.
 func TestFirstRailsApart(t *testing.T) {
-	want, _ := impl.FirstRails(50)
-	for k := range want {
-		got, _ := impl.FirstRails(50)
-		spoil(results(got[k]))
-		got[k] = want[k]
-		if !reflect.DeepEqual(got, want) {
-			t.Error("the lists share memory:", k, got)
-		}
-	}
+	expectApart(t, map[string]func() ([][]int, bool){
+		"FirstRails": func() ([][]int, bool) { return impl.FirstRails(50) },
+	})
 }
 
 // TestAnyPostArguments calls all functions with whatever comes: they return, with zero values where they fail.

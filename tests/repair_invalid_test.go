@@ -4,7 +4,6 @@ import (
 	"fmt"
 	"math"
 	"math/rand"
-	"reflect"
 	"slices"
 	"strings"
 	"testing"
@@ -207,23 +206,12 @@ func TestRepairResultsAreNew(t *testing.T) {
 	expectNew(t, append(slices.Clone(patches), broken), again)
 }
 
-// TestPatchListsApart spoils each list of a result: no other one may show it.
 func TestPatchListsApart(t *testing.T) {
-	for name, again := range map[string]func() ([][]int, bool){
+	expectApart(t, map[string]func() ([][]int, bool){
 		"FirstPatches":    func() ([][]int, bool) { return impl.FirstPatches(inTurn, impl.MaxPatches) },
 		"PatchesForPrice": func() ([][]int, bool) { return impl.PatchesForPrice(inTurn, 0, 1) },
 		"SoundParts":      func() ([][]int, bool) { return impl.SoundParts(inTurn) },
-	} {
-		want, _ := again()
-		for k := range want {
-			got, _ := again()
-			spoil(results(got[k]))
-			got[k] = want[k]
-			if !reflect.DeepEqual(got, want) {
-				t.Error("the lists share memory:", name, k, got)
-			}
-		}
-	}
+	})
 }
 
 // TestAnyRepairArguments calls all functions with whatever comes: they return, with zero values where they fail.
